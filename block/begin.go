@@ -63,7 +63,9 @@ func (p *parser) begin(at int) int {
 // addIn adds b, with nothing open any more within the block at.
 func (p *parser) addIn(at int, b api.Block) *node {
 	p.closeWithin(at)
-	return &p.list[p.add(b)]
+	// In one expression Go would leave open whether the list is read ahead of what add does to it, or behind that.
+	added := p.add(b)
+	return &p.list[added]
 }
 
 func (p *parser) beginCode(at int) int {

@@ -852,6 +852,29 @@ func TestParts(t *testing.T) {
 	}
 }
 
+// TestBegunBehindOthers holds P12.1 to blocks that begin as the first ones, and behind so many others: what is told of each as it begins is told of that one.
+func TestBegunBehindOthers(t *testing.T) {
+	for n := range 70 {
+		ahead, told := strings.Repeat("***\n", n), strings.Repeat("rule ", n)
+		for _, x := range []example{
+			{"# a\n", `h1"a"`},
+			{"###### a #\n# b\n", `h6"a" h1"b"`},
+			{"a\nb\n--\n", `h2"a\nb"`},
+			{"  ~~~ go\n   a\n~~~\n~~~~\n", `code[go]" a\n" code""`},
+			{"<div>\na\n\n<b>\nc\n", `html"<div>\na\n" html"<b>\nc\n"`},
+			{"<!-- a\n\nb -->\nc\n", `html"<!-- a\n\nb -->\n" p"c"`},
+			{"    a\n\n     b\n", `code"a\n\n b\n"`},
+			{"> a\n> > # b\n", `quote(p"a" quote(h1"b"))`},
+			{"---\n", "rule"},
+			{"- a\n\n      b\n- # c\n", `loose-(item(p"a" code"b\n") item(h1"c"))`},
+			{"7)  a\n    b\n\n    ~~~\n     c\n    ~~~\n", `loose7)(item(p"a\nb" code" c\n"))`},
+			{"a\n", `p"a"`},
+		} {
+			same(t, ahead+x.s, told+x.want)
+		}
+	}
+}
+
 // TestNewMemory holds rule 3: answers share nothing with what is handed in, nor one list with another.
 func TestNewMemory(t *testing.T) {
 	s := strings.Clone("# a\nb\n\n    c\n\n~~~ d\ne\n~~~\n<a>\n\n> - f\n\n[g]: /h 'i'\n\nj\n===\n")
